@@ -1,0 +1,121 @@
+package tests
+
+import (
+	"go/ast"
+	"go/parser"
+	"go/token"
+	"path/filepath"
+	"strings"
+	"testing"
+)
+
+// reached has, by file, the declarations of the program that its exported
+// functions reach, as far as names tell.
+func reached(t *testing.T) map[string][]ast.Node {
+	t.Helper()
+	fset := token.NewFileSet()
+	declared := map[string][]ast.Node{}
+	var work []ast.Node
+	files, _ := filepath.Glob(filepath.Join("..", "impl", "*.go"))
+	for _, name := range files {
+		if strings.HasSuffix(name, "_test.go") {
+			continue
+		}
+		f, err := parser.ParseFile(fset, name, nil, 0)
+		if err != nil {
+			t.Fatal(err)
+		}
+		for _, d := range f.Decls {
+			switch d := d.(type) {
+			case *ast.FuncDecl:
+				declared[d.Name.Name] = append(declared[d.Name.Name], d)
+				if d.Recv == nil && d.Name.IsExported() {
+					work = append(work, d)
+				}
+			case *ast.GenDecl:
+				for _, s := range d.Specs {
+					if s, ok := s.(*ast.TypeSpec); ok {
+						declared[s.Name.Name] = append(declared[s.Name.Name], s)
+					}
+				}
+			}
+		}
+	}
+	seen := map[ast.Node]bool{}
+	byFile := map[string][]ast.Node{}
+	for len(work) > 0 {
+		n := work[0]
+		work = work[1:]
+		if seen[n] {
+			continue
+		}
+		seen[n] = true
+		file := filepath.Base(fset.Position(n.Pos()).Filename)
+		byFile[file] = append(byFile[file], n)
+		ast.Inspect(n, func(m ast.Node) bool {
+			if id, ok := m.(*ast.Ident); ok {
+				work = append(work, declared[id.Name]...)
+			}
+			return true
+		})
+	}
+	return byFile
+}
+
+func anyIn(nodes []ast.Node, is func(n ast.Node) bool) bool {
+	found := false
+	for _, n := range nodes {
+		ast.Inspect(n, func(m ast.Node) bool {
+			found = found || m != nil && is(m)
+			return true
+		})
+	}
+	return found
+}
+
+func isGenericList(n ast.Node) bool {
+	s, ok := n.(*ast.TypeSpec)
+	if !ok || s.TypeParams == nil {
+		return false
+	}
+	_, list := s.Type.(*ast.ArrayType)
+	return list
+}
+
+func isStructOfPointers(n ast.Node) bool {
+	s, ok := n.(*ast.StructType)
+	return ok && anyIn([]ast.Node{s}, func(n ast.Node) bool {
+		_, pointer := n.(*ast.StarExpr)
+		return pointer
+	})
+}
+
+func isClosureThatCallsItself(n ast.Node) bool {
+	a, ok := n.(*ast.AssignStmt)
+	if !ok || len(a.Lhs) != 1 || len(a.Rhs) != 1 {
+		return false
+	}
+	name, named := a.Lhs[0].(*ast.Ident)
+	body, closure := a.Rhs[0].(*ast.FuncLit)
+	return named && closure && anyIn([]ast.Node{body}, func(n ast.Node) bool {
+		c, ok := n.(*ast.CallExpr)
+		if !ok {
+			return false
+		}
+		f, ok := c.Fun.(*ast.Ident)
+		return ok && f.Name == name.Name
+	})
+}
+
+func TestWaysOfMapsAndTrees(t *testing.T) {
+	byFile := reached(t)
+	if !anyIn(byFile["l01_maps.go"], isGenericList) {
+		t.Error("l01 has no sorted list as a generic type")
+	}
+	if !anyIn(byFile["l02_trees.go"], isStructOfPointers) {
+		t.Error("l02 has no nodes as pointers")
+	}
+	if !anyIn(byFile["l02_trees.go"], isClosureThatCallsItself) {
+		t.Error("l02 has no closure that calls itself")
+	}
+}
