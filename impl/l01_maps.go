@@ -74,10 +74,9 @@ func KeyOk(s string) bool {
 	return true
 }
 
-func MapOk(m []Pair) bool {
-	if len(m) > MaxPairs {
-		return false
-	}
+// pairsOk tells whether all pairs are right, by rising keys, however many there
+// are: a tree has no limit but that of its nodes.
+func pairsOk(m []Pair) bool {
 	for _, p := range m {
 		if !KeyOk(p.Key) || !KeyOk(p.Val) {
 			return false
@@ -86,15 +85,23 @@ func MapOk(m []Pair) bool {
 	return pairList(m).rises()
 }
 
-func Get(m []Pair, k string) (string, bool) {
-	if !MapOk(m) {
-		return "", false
-	}
+func valueIn(m []Pair, k string) (string, bool) {
 	i, there := pairList(m).place(k)
 	if !there {
 		return "", false
 	}
 	return m[i].Val, true
+}
+
+func MapOk(m []Pair) bool {
+	return len(m) <= MaxPairs && pairsOk(m)
+}
+
+func Get(m []Pair, k string) (string, bool) {
+	if !MapOk(m) {
+		return "", false
+	}
+	return valueIn(m, k)
 }
 
 func Put(m []Pair, k string, v string) ([]Pair, bool) {
@@ -131,15 +138,28 @@ func Range(m []Pair, low string, high string) []Pair {
 	return slices.Clone(m[from:to])
 }
 
+func pairText(p Pair) string { return p.Key + "=" + p.Val }
+
+// pairFrom is the pair whose text word is. It need not be right: where there is
+// no = its value is empty.
+func pairFrom(word string) Pair {
+	k, v, _ := strings.Cut(word, "=")
+	return Pair{Key: k, Val: v}
+}
+
+func pairsText(m []Pair) string {
+	words := make([]string, len(m))
+	for i, p := range m {
+		words[i] = pairText(p)
+	}
+	return strings.Join(words, " ")
+}
+
 func MapText(m []Pair) string {
 	if !MapOk(m) {
 		return ""
 	}
-	words := make([]string, len(m))
-	for i, p := range m {
-		words[i] = p.Key + "=" + p.Val
-	}
-	return strings.Join(words, " ")
+	return pairsText(m)
 }
 
 func ReadMap(s string) ([]Pair, bool) {
@@ -149,8 +169,7 @@ func ReadMap(s string) ([]Pair, bool) {
 	var m []Pair
 	// One word more than a map may have is enough to refuse a long text.
 	for _, word := range strings.SplitN(s, " ", MaxPairs+1) {
-		k, v, _ := strings.Cut(word, "=")
-		m = append(m, Pair{Key: k, Val: v})
+		m = append(m, pairFrom(word))
 	}
 	if !MapOk(m) {
 		return nil, false

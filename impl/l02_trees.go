@@ -138,7 +138,7 @@ func rightTree(t []Node) (*branch, bool) {
 		return nil, false
 	}
 	first, ok := branchesOf(t)
-	if !ok || !first.wellShaped() || !MapOk(first.all()) {
+	if !ok || !first.wellShaped() || !pairsOk(first.all()) {
 		return nil, false
 	}
 	return first, true
@@ -300,7 +300,7 @@ func TreeMap(t []Node) []Pair {
 }
 
 func TreeGet(t []Node, k string) (string, bool) {
-	return Get(TreeMap(t), k)
+	return valueIn(TreeMap(t), k)
 }
 
 func TreePut(t []Node, k string, v string) ([]Node, bool) {

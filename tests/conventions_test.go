@@ -2,114 +2,258 @@ package tests
 
 import (
 	"fmt"
+	"go/ast"
+	"go/parser"
+	"go/token"
+	"maps"
 	"math"
 	"math/rand"
+	"path/filepath"
+	"reflect"
 	"slices"
+	"strconv"
 	"strings"
 	"testing"
 
 	"loop.example/g00573/impl"
 )
 
-// roomy has behind l some room in which there is something.
-func roomy[E any](l []E, mark E) []E {
-	r := append(slices.Clone(l), mark, mark, mark)
-	r = r[:cap(r)]
-	for i := len(l); i < len(r); i++ {
-		r[i] = mark
+// built has the functions of the chapters that are built.
+func built() map[string]any {
+	return map[string]any{
+		"KeyOk": impl.KeyOk, "MapOk": impl.MapOk, "Get": impl.Get, "Put": impl.Put, "Drop": impl.Drop,
+		"Range": impl.Range, "MapText": impl.MapText, "ReadMap": impl.ReadMap,
+		"TreeOk": impl.TreeOk, "TreeOf": impl.TreeOf, "TreeMap": impl.TreeMap, "TreeGet": impl.TreeGet,
+		"TreePut": impl.TreePut, "TreeDrop": impl.TreeDrop, "Height": impl.Height,
+		"SumOf": impl.SumOf, "PageOk": impl.PageOk, "PageText": impl.PageText, "ReadPage": impl.ReadPage,
+		"SuperText": impl.SuperText, "ReadSuper": impl.ReadSuper,
+		"ShadowNew": impl.ShadowNew, "ShadowOk": impl.ShadowOk, "ShadowTree": impl.ShadowTree, "ShadowApply": impl.ShadowApply,
 	}
-	return r[:len(l)]
 }
 
-func roomyMap(m []impl.Pair) []impl.Pair {
-	return roomy(m, impl.Pair{Key: "mark", Val: "mark"})
-}
+var builtFiles = []string{"l01_maps.go", "l02_trees.go", "l03_pages.go", "l04_shadows.go"}
 
-func roomyTree(t []impl.Node) []impl.Node {
-	t = roomy(t, impl.Node{Pairs: pairsOf("mark")})
-	for i := range t {
-		t[i].Pairs = roomyMap(t[i].Pairs)
-		t[i].Kids = roomy(t[i].Kids, 77)
+func TestNoFunctionIsLeftOut(t *testing.T) {
+	var declared, looked []string
+	for _, name := range builtFiles {
+		f, err := parser.ParseFile(token.NewFileSet(), filepath.Join("..", "impl", name), nil, 0)
+		if err != nil {
+			t.Fatal(err)
+		}
+		for _, d := range f.Decls {
+			if f, ok := d.(*ast.FuncDecl); ok && f.Recv == nil && f.Name.IsExported() {
+				declared = append(declared, f.Name.Name)
+			}
+		}
 	}
-	return t
+	for name := range built() {
+		looked = append(looked, name)
+	}
+	slices.Sort(declared)
+	slices.Sort(looked)
+	if !slices.Equal(declared, looked) {
+		t.Error(declared, looked)
+	}
 }
 
-// wholeMap and wholeTree write all that is there, and what is in the room
-// behind it.
-func wholeMap(m []impl.Pair) string { return fmt.Sprint(len(m), m[:cap(m)]) }
+// roomy is v in new memory, with some room behind each list, in which there is
+// something.
+func roomy(v reflect.Value) reflect.Value {
+	c := reflect.New(v.Type()).Elem()
+	switch v.Kind() {
+	case reflect.Slice:
+		n := v.Len()
+		c.Set(reflect.MakeSlice(v.Type(), n+3, n+3))
+		for i := range n {
+			c.Index(i).Set(roomy(v.Index(i)))
+		}
+		for i := n; i < n+3; i++ {
+			mark(c.Index(i))
+		}
+		c.SetLen(n)
+	case reflect.Struct:
+		for i := range v.NumField() {
+			c.Field(i).Set(roomy(v.Field(i)))
+		}
+	default:
+		c.Set(v)
+	}
+	return c
+}
 
-func wholeTree(t []impl.Node) string {
-	s := fmt.Sprint(len(t))
-	for _, n := range t[:cap(t)] {
-		s += fmt.Sprint(wholeMap(n.Pairs), len(n.Kids), n.Kids[:cap(n.Kids)])
+// mark writes over all that v has.
+func mark(v reflect.Value) {
+	switch v.Kind() {
+	case reflect.Slice:
+		if v.Len() == 0 {
+			v.Set(reflect.MakeSlice(v.Type(), 2, 2))
+		}
+		for i := range v.Len() {
+			mark(v.Index(i))
+		}
+	case reflect.Struct:
+		for i := range v.NumField() {
+			mark(v.Field(i))
+		}
+	case reflect.Int64:
+		v.SetInt(77)
+	case reflect.String:
+		v.SetString("mark")
+	case reflect.Bool:
+		v.SetBool(true)
+	default:
+		panic("no mark for " + v.Kind().String())
+	}
+}
+
+// scribble writes over all that the lists in v have.
+func scribble(v reflect.Value) {
+	switch v.Kind() {
+	case reflect.Slice:
+		for i := range v.Len() {
+			scribble(v.Index(i))
+			mark(v.Index(i))
+		}
+	case reflect.Struct:
+		for i := range v.NumField() {
+			scribble(v.Field(i))
+		}
+	}
+}
+
+// written writes all that v has, and, where that is asked for, what is in the
+// room behind each list. Nil is written as an empty list.
+func written(v reflect.Value, room bool) string {
+	var to strings.Builder
+	write(&to, v, room)
+	return to.String()
+}
+
+func write(to *strings.Builder, v reflect.Value, room bool) {
+	switch v.Kind() {
+	case reflect.Slice:
+		to.WriteString(strconv.Itoa(v.Len()) + "[")
+		if room {
+			v = v.Slice(0, v.Cap())
+		}
+		for i := range v.Len() {
+			write(to, v.Index(i), room)
+		}
+		to.WriteString("]")
+	case reflect.Struct:
+		to.WriteString("{")
+		for i := range v.NumField() {
+			write(to, v.Field(i), room)
+		}
+		to.WriteString("}")
+	case reflect.String:
+		to.WriteString(strconv.Quote(v.String()))
+	default:
+		fmt.Fprint(to, v.Interface(), ",")
+	}
+}
+
+func writtenAll(l []reflect.Value, room bool) string {
+	s := ""
+	for _, v := range l {
+		s += written(v, room) + "\n"
 	}
 	return s
 }
 
-// scribble writes over all that a list has, and over the room behind it.
-func scribble[E any](l []E, with E) {
-	l = l[:cap(l)]
-	for i := range l {
-		l[i] = with
+// shown writes a value, so that two are alike just when their texts are.
+func shown(v any) string { return written(reflect.ValueOf(v), false) }
+
+// stretch is where the memory of one list is, with the room behind it.
+type stretch struct{ from, to uintptr }
+
+func stretches(l []reflect.Value) []stretch {
+	var found []stretch
+	var look func(v reflect.Value)
+	look = func(v reflect.Value) {
+		switch v.Kind() {
+		case reflect.Slice:
+			if v.Cap() > 0 {
+				from := v.Pointer()
+				found = append(found, stretch{from, from + uintptr(v.Cap())*v.Type().Elem().Size()})
+			}
+			for i := range v.Len() {
+				look(v.Index(i))
+			}
+		case reflect.Struct:
+			for i := range v.NumField() {
+				look(v.Field(i))
+			}
+		}
+	}
+	for _, v := range l {
+		look(v)
+	}
+	return found
+}
+
+func anyShared(a []stretch, b []stretch) bool {
+	for _, x := range a {
+		for _, y := range b {
+			if x.from < y.to && y.from < x.to {
+				return true
+			}
+		}
+	}
+	return false
+}
+
+func anySharedAmong(a []stretch) bool {
+	for i := range a {
+		if anyShared(a[:i], a[i:i+1]) {
+			return true
+		}
+	}
+	return false
+}
+
+// checkCall calls f twice, and looks at what the conventions say of every
+// function.
+func checkCall(t *testing.T, name string, f reflect.Value, args []reflect.Value) {
+	t.Helper()
+	given := make([]reflect.Value, len(args))
+	for i, a := range args {
+		given[i] = roomy(a)
+	}
+	before := writtenAll(given, true)
+	out := f.Call(given)
+	first := writtenAll(out, false)
+	if writtenAll(given, true) != before {
+		t.Fatal(name, "writes into an argument:", before)
+	}
+	memory := stretches(out)
+	if anyShared(memory, stretches(given)) {
+		t.Fatal(name, "answers with an argument's memory:", before)
+	}
+	if anySharedAmong(memory) {
+		t.Fatal(name, "has two lists of one memory:", before)
+	}
+	checkRefusal(t, name, out)
+	for _, v := range out {
+		scribble(v)
+	}
+	if again := writtenAll(f.Call(given), false); again != first {
+		t.Fatal(name, "answers another thing the second time:", before, first, again)
 	}
 }
 
-func scribbleTree(t []impl.Node) {
-	for _, n := range t {
-		scribble(n.Pairs, impl.Pair{Key: "over"})
-		scribble(n.Kids, 99)
+// checkRefusal looks whether all is zero beside a last flag that is false.
+func checkRefusal(t *testing.T, name string, out []reflect.Value) {
+	t.Helper()
+	last := len(out) - 1
+	if out[last].Kind() != reflect.Bool || out[last].Bool() {
+		return
 	}
-	scribble(t, impl.Node{Kids: []int64{99}})
-}
-
-type call struct {
-	name string
-	do   func(m []impl.Pair, x []impl.Node) ([]impl.Pair, []impl.Node)
-}
-
-// calls are the functions of chapters 1 and 2 that take or give lists, each at
-// keys that are there, are not there and are none.
-func calls() []call {
-	l := []call{
-		{"MapOk", func(m []impl.Pair, x []impl.Node) ([]impl.Pair, []impl.Node) { impl.MapOk(m); return nil, nil }},
-		{"MapText", func(m []impl.Pair, x []impl.Node) ([]impl.Pair, []impl.Node) { impl.MapText(m); return nil, nil }},
-		{"TreeOk", func(m []impl.Pair, x []impl.Node) ([]impl.Pair, []impl.Node) { impl.TreeOk(x); return nil, nil }},
-		{"Height", func(m []impl.Pair, x []impl.Node) ([]impl.Pair, []impl.Node) { impl.Height(x); return nil, nil }},
-		{"TreeMap", func(m []impl.Pair, x []impl.Node) ([]impl.Pair, []impl.Node) { return impl.TreeMap(x), nil }},
-		{"TreeOf", func(m []impl.Pair, x []impl.Node) ([]impl.Pair, []impl.Node) {
-			y, _ := impl.TreeOf(m)
-			return nil, y
-		}},
-		{"ReadMap", func(m []impl.Pair, x []impl.Node) ([]impl.Pair, []impl.Node) {
-			n, _ := impl.ReadMap(impl.MapText(m))
-			return n, nil
-		}},
+	for _, v := range out {
+		if written(v, false) != written(reflect.Zero(v.Type()), false) {
+			t.Fatal(name, "is false, and answers", written(v, false))
+		}
 	}
-	for _, k := range []string{"", "!", "a", "b", "bb", "c", "d", "e", "e5", "h", "k10", "k40", "k69", "zz", "~", "\xff", "too long a key"} {
-		l = append(l,
-			call{"Get " + k, func(m []impl.Pair, x []impl.Node) ([]impl.Pair, []impl.Node) { impl.Get(m, k); return nil, nil }},
-			call{"TreeGet " + k, func(m []impl.Pair, x []impl.Node) ([]impl.Pair, []impl.Node) { impl.TreeGet(x, k); return nil, nil }},
-			call{"Put " + k, func(m []impl.Pair, x []impl.Node) ([]impl.Pair, []impl.Node) {
-				n, _ := impl.Put(m, k, "1")
-				return n, nil
-			}},
-			call{"Drop " + k, func(m []impl.Pair, x []impl.Node) ([]impl.Pair, []impl.Node) {
-				n, _ := impl.Drop(m, k)
-				return n, nil
-			}},
-			call{"Range from " + k, func(m []impl.Pair, x []impl.Node) ([]impl.Pair, []impl.Node) { return impl.Range(m, k, ""), nil }},
-			call{"Range ahead of " + k, func(m []impl.Pair, x []impl.Node) ([]impl.Pair, []impl.Node) { return impl.Range(m, "b", k), nil }},
-			call{"TreePut " + k, func(m []impl.Pair, x []impl.Node) ([]impl.Pair, []impl.Node) {
-				y, _ := impl.TreePut(x, k, "1")
-				return nil, y
-			}},
-			call{"TreeDrop " + k, func(m []impl.Pair, x []impl.Node) ([]impl.Pair, []impl.Node) {
-				y, _ := impl.TreeDrop(x, k)
-				return nil, y
-			}},
-		)
-	}
-	return l
 }
 
 func someMaps() [][]impl.Pair {
@@ -134,6 +278,8 @@ func someTrees() [][]impl.Node {
 		treeFrom("(((a b)(c d)(e f))((g h)(i j)))"),
 		treeFrom("(((a b)(c d))((e f)(g h)(i j)))"),
 		treeFrom("((((a b)(c d))((e f)(g h)))(((i j)(k l))((m n)(o p))))"),
+		wide(61),
+		manyNodes(19),
 	}
 	for _, x := range wrongTrees() {
 		if len(pairsIn(x)) < 1000 && len(x[0].Kids) < 1000 {
@@ -143,78 +289,114 @@ func someTrees() [][]impl.Node {
 	return append(l, nil)
 }
 
-func TestAnswersAreNewMemory(t *testing.T) {
-	trees, lists := someTrees(), someMaps()
-	for _, c := range calls() {
-		for i := range max(len(trees), len(lists)) {
-			m, x := roomyMap(lists[i%len(lists)]), roomyTree(trees[i%len(trees)])
-			beforeMap, beforeTree := wholeMap(m), wholeTree(x)
-			pairs, nodes := c.do(m, x)
-			if wholeMap(m) != beforeMap || wholeTree(x) != beforeTree {
-				t.Fatal(c.name, i, "writes into an argument")
-			}
-			again, nodesAgain := c.do(m, x)
-			if !slices.Equal(pairs, again) || !sameTree(nodes, nodesAgain) {
-				t.Fatal(c.name, i, "answers another thing the second time")
-			}
-			scribble(pairs, impl.Pair{Key: "over"})
-			scribbleTree(nodes)
-			if wholeMap(m) != beforeMap || wholeTree(x) != beforeTree {
-				t.Fatal(c.name, i, "shares an argument's memory")
-			}
-			pairs, nodes = c.do(m, x)
-			if !slices.Equal(pairs, again) || !sameTree(nodes, nodesAgain) {
-				t.Fatal(c.name, i, "keeps what it answered")
-			}
-		}
+func someTexts() []string {
+	return []string{
+		"", "!", "a", "b", "bb", "c", "d", "e", "e5", "h", "k10", "k69", "~", "\xff", "too long a key",
+		"a=1 b=2", "b=2 a=1",
+		summed("page 7 leaf a=1 b=2"), summed("page 7 kids 9 8 10"), summed("page 7 leaf b=1 a=2"), summed("page 7 kids 7 8"),
+		summed("super 3 5 9"), summed("super 3 9 9"), "page 7 leaf 0",
 	}
 }
 
-func TestListsOfOneAnswerShareNothing(t *testing.T) {
-	trees := someTrees()
-	for _, c := range calls() {
-		for i, x := range trees {
-			_, nodes := c.do(numbered(i), x)
-			for place := range nodes {
-				want := copyOf(nodes)
-				scribble(nodes[place].Pairs, impl.Pair{Key: "over"})
-				want[place].Pairs = nodes[place].Pairs
-				if !sameTree(nodes, want) {
-					t.Fatal(c.name, i, "the pairs of", place, "are shared")
-				}
-				scribble(nodes[place].Kids, 99)
-				want[place].Kids = nodes[place].Kids
-				if !sameTree(nodes, want) {
-					t.Fatal(c.name, i, "the kids of", place, "are shared")
-				}
-			}
-		}
+func somePages() []impl.Page {
+	return slices.AppendSeq(slices.Collect(maps.Values(rightPages())), maps.Values(wrongPages()))
+}
+
+func someSupers() []impl.Super {
+	return slices.Concat(rightSupers(), wrongSupers())
+}
+
+func someShadows() []impl.Shadow {
+	return slices.AppendSeq(slices.Collect(maps.Values(rightShadows())), maps.Values(wrongShadows()))
+}
+
+func someChanges() [][]impl.Change {
+	return [][]impl.Change{
+		nil,
+		changesOf("a"), changesOf("e"), changesOf("zz"), changesOf("-a"), changesOf("-e"), changesOf("-zz"),
+		changesOf("c:9", "cc", "ccc", "-d", "-a", "f:1"),
+		changesOf("x", "-x"),
+		changesOf(slices.Repeat([]string{"y"}, 30)...),
+		changesOf(slices.Repeat([]string{"y"}, 31)...),
+		changesOf("a", "too-long"),
+		{{}},
 	}
 }
 
-// TestEveryFunctionAnswersAtEveryArgument would stop at a panic, or not end.
-func TestEveryFunctionAnswersAtEveryArgument(t *testing.T) {
-	texts := []string{"", "a", "b", "=", " ", "\x00", "\xff", "\xff\xff", "a=1", strings.Repeat("a", 100000), strings.Repeat("a=1 ", 100000)}
-	lists := append(someMaps(), make([]impl.Pair, 100000))
-	trees := append(someTrees(), make([]impl.Node, 100000))
-	for _, s := range texts {
-		impl.KeyOk(s)
-		impl.ReadMap(s)
-		for _, v := range texts {
-			for _, m := range lists {
-				impl.Get(m, s)
-				impl.Put(m, s, v)
-				impl.Drop(m, s)
-				impl.Range(m, s, v)
-				impl.MapText(m)
-				impl.TreeOf(m)
+// valuesOf are arguments for a parameter of that type, a few of them where one
+// ahead of it has all.
+func valuesOf(t *testing.T, of reflect.Type, few bool) []reflect.Value {
+	t.Helper()
+	if few && of.Kind() == reflect.String {
+		return []reflect.Value{reflect.ValueOf(""), reflect.ValueOf("d"), reflect.ValueOf("new"), reflect.ValueOf("too long")}
+	}
+	for _, l := range []any{someMaps(), someTrees(), someTexts(), somePages(), someSupers(), someShadows(), someChanges()} {
+		if reflect.TypeOf(l).Elem() == of {
+			var values []reflect.Value
+			for i := range reflect.ValueOf(l).Len() {
+				values = append(values, reflect.ValueOf(l).Index(i))
 			}
-			for _, x := range trees {
-				impl.TreeGet(x, s)
-				impl.TreePut(x, s, v)
-				impl.TreeDrop(x, s)
-				impl.TreeMap(x)
-				impl.Height(x)
+			return values
+		}
+	}
+	t.Fatal("no values of type", of)
+	return nil
+}
+
+// choices has the arguments for each parameter of f.
+func choices(t *testing.T, f reflect.Value) [][]reflect.Value {
+	t.Helper()
+	var of [][]reflect.Value
+	for i := range f.Type().NumIn() {
+		of = append(of, valuesOf(t, f.Type().In(i), i == 2))
+	}
+	return of
+}
+
+func TestConventions(t *testing.T) {
+	for name, f := range built() {
+		f := reflect.ValueOf(f)
+		of := choices(t, f)
+		var give func(args []reflect.Value)
+		give = func(args []reflect.Value) {
+			if len(args) == len(of) {
+				checkCall(t, name, f, args)
+				return
+			}
+			for _, v := range of[len(args)] {
+				give(append(slices.Clone(args), v))
+			}
+		}
+		give(nil)
+	}
+}
+
+// TestGreatArguments would stop at a panic, or not end.
+func TestGreatArguments(t *testing.T) {
+	great := []any{
+		strings.Repeat("a", 100000), strings.Repeat("a=1 ", 100000), strings.Repeat(" ", 100000),
+		make([]impl.Pair, 100000), make([]impl.Node, 100000), make([]impl.Change, 100000),
+		impl.Page{Id: 1, Pairs: make([]impl.Pair, 100000)}, impl.Page{Id: 1, Kids: make([]int64, 100000)},
+		impl.Shadow{Pages: make([]impl.Page, 100000), Super: impl.Super{Gen: 1, Root: 1, Next: 2}},
+		impl.Shadow{Pages: []impl.Page{{Id: 1, Kids: make([]int64, 100000)}}, Super: impl.Super{Gen: 1, Root: 1, Next: 2}},
+		impl.Super{Gen: math.MaxInt64, Root: math.MinInt64, Next: math.MaxInt64},
+		impl.Super{Gen: math.MinInt64, Root: math.MaxInt64, Next: math.MinInt64},
+	}
+	for name, f := range built() {
+		f := reflect.ValueOf(f)
+		of := choices(t, f)
+		for _, g := range great {
+			var args []reflect.Value
+			found := false
+			for i := range of {
+				if reflect.TypeOf(g) == f.Type().In(i) {
+					args, found = append(args, reflect.ValueOf(g)), true
+				} else {
+					args = append(args, of[i][1])
+				}
+			}
+			if found {
+				checkRefusal(t, name, f.Call(args))
 			}
 		}
 	}

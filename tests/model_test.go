@@ -7,8 +7,8 @@ import (
 	"loop.example/g00573/impl"
 )
 
-// problemOf tells why t is not right, but for how many pairs there are; "" when
-// it is right. It shares nothing with what it judges.
+// problemOf tells why t is not right; "" when it is right. It shares nothing
+// with what it judges.
 func problemOf(t []impl.Node) string {
 	if len(t) < 1 || len(t) > 100 {
 		return "too few or too many nodes"

@@ -68,10 +68,9 @@ func wrongTrees() map[string][]impl.Node {
 		"an empty node ahead":            {{}, {Pairs: pairsOf("a", "b")}},
 		"the last node missing":          bent("((a b)(c d))", func(t []impl.Node) []impl.Node { return t[:2] }),
 		"nodes level by level":           levelByLevel(),
-		"101 nodes":                      hundredAndOne(),
+		"101 nodes":                      manyNodes(20),
+		"a hundred kids":                 hundredKids(),
 		"100 nodes behind the first":     append(treeFrom("(b)"), make([]impl.Node, 100)...),
-		"61 pairs":                       wide(61),
-		"64 pairs":                       wide(64),
 		"a million pairs in one":         {{Pairs: make([]impl.Pair, 1000000)}},
 		"a million kids, all themselves": {{Kids: make([]int64, 1000000)}},
 	}
@@ -87,36 +86,62 @@ func levelByLevel() []impl.Node {
 	}
 }
 
-// hundredAndOne has a first node over a hundred: one node too many, as there
-// are too many kids and pairs.
-func hundredAndOne() []impl.Node {
-	t := []impl.Node{{}}
-	for i := range int64(100) {
-		t[0].Kids = append(t[0].Kids, i+1)
-		t = append(t, impl.Node{Pairs: pairsOf("k"+strconv.FormatInt(100+2*i, 10), "k"+strconv.FormatInt(101+2*i, 10))})
-	}
-	t[1].Pairs[0].Key = "b"
-	return t
+// hundredKids has a first node over a hundred: one node too many, as there are
+// too many kids.
+func hundredKids() []impl.Node {
+	return layered([]int{100}, slices.Repeat([]int{2}, 100))
 }
 
-// wide has three levels, four kids and three or four pairs in each node: right
-// but for how many there are.
-func wide(pairs int) []impl.Node {
-	m := numbered(pairs)
-	m[0].Key = "b"
-	t := []impl.Node{{}}
-	for range 4 {
-		t[0].Kids = append(t[0].Kids, int64(len(t)))
-		above := len(t)
+// layered is a tree of which each level has as many nodes as the one above has
+// kids: counts tells, level by level, how many kids each has, one behind the
+// other, and last how many pairs. Its first key is b, the others are longer
+// ones that rise.
+func layered(counts ...[]int) []impl.Node {
+	var t []impl.Node
+	at := make([]int, len(counts))
+	pairs := 0
+	var lay func(level int) int64
+	lay = func(level int) int64 {
+		place := len(t)
 		t = append(t, impl.Node{})
-		for range 4 {
-			t[above].Kids = append(t[above].Kids, int64(len(t)))
-			n := min(4, len(m), max(3, len(m)-3*(20-len(t))))
-			t = append(t, impl.Node{Pairs: m[:n:n]})
-			m = m[n:]
+		n := counts[level][at[level]]
+		at[level]++
+		for range n {
+			if level == len(counts)-1 {
+				k := "k" + strconv.Itoa(100+pairs)
+				t[place].Pairs = append(t[place].Pairs, impl.Pair{Key: k, Val: strconv.Itoa(pairs)})
+				pairs++
+				continue
+			}
+			kid := lay(level + 1)
+			t[place].Kids = append(t[place].Kids, kid)
+		}
+		return int64(place)
+	}
+	lay(0)
+	for place := range t {
+		if len(t[place].Pairs) > 0 {
+			t[place].Pairs[0].Key = "b"
+			break
 		}
 	}
 	return t
+}
+
+// times is n times a and m times b.
+func times(n int, a int, m int, b int) []int {
+	return append(slices.Repeat([]int{a}, n), slices.Repeat([]int{b}, m)...)
+}
+
+// manyNodes has five levels, two pairs in each of the lowest nodes: 81 nodes
+// and one for each that is told to have three kids.
+func manyNodes(threes int) []impl.Node {
+	return layered([]int{2}, []int{3, 3}, times(6, 4, 0, 0), times(threes, 3, 24-threes, 2), times(48+threes, 2, 0, 0))
+}
+
+// wide has three levels and four kids in each node.
+func wide(pairs int) []impl.Node {
+	return layered([]int{4}, []int{4, 4, 4, 4}, times(pairs-48, 4, 64-pairs, 3))
 }
 
 func pairsIn(t []impl.Node) []impl.Pair {
@@ -127,14 +152,82 @@ func pairsIn(t []impl.Node) []impl.Pair {
 	return m
 }
 
-func TestWideTreesAreRightUpTo60Pairs(t *testing.T) {
-	for n := 52; n <= 64; n++ {
-		w := wide(n)
-		if problem := problemOf(w); problem != "" || len(pairsIn(w)) != n {
-			t.Fatal(n, problem, w)
+// treesOfMany are right trees with more than 60 pairs.
+func treesOfMany() map[string][]impl.Node {
+	return map[string][]impl.Node{
+		"61 pairs":            wide(61),
+		"64 pairs":            wide(64),
+		"61 pairs, unlike":    layered([]int{4}, []int{4, 4, 4, 4}, append(times(14, 4, 1, 3), 2)),
+		"99 nodes":            manyNodes(18),
+		"100 nodes":           manyNodes(19),
+		"100 nodes, all full": layered([]int{2}, []int{3, 2}, times(4, 4, 1, 3), times(16, 4, 3, 3), times(73, 4, 0, 0)),
+	}
+}
+
+func TestTheLimitOfNodes(t *testing.T) {
+	for threes := 15; threes <= 24; threes++ {
+		x := manyNodes(threes)
+		if want := len(x) <= 100; len(x) != 81+threes || impl.TreeOk(x) != want || (impl.Height(x) == 5) != want {
+			t.Error(len(x), "nodes:", impl.TreeOk(x), impl.Height(x))
 		}
-		if ok := impl.TreeOk(w); ok != (n <= 60) {
-			t.Error(n, "pairs", ok)
+	}
+}
+
+func TestTreesOfManyPairsAreRight(t *testing.T) {
+	for name, x := range treesOfMany() {
+		m := pairsIn(x)
+		if problem := problemOf(x); problem != "" || len(m) <= 60 {
+			t.Fatal(name, problem, len(m))
+		}
+		if !impl.TreeOk(x) || impl.Height(x) < 3 || !slices.Equal(impl.TreeMap(x), m) {
+			t.Error(name, impl.TreeOk(x), impl.Height(x), impl.TreeMap(x))
+		}
+		for _, p := range m {
+			if v, ok := impl.TreeGet(x, p.Key); !ok || v != p.Val {
+				t.Error(name, p, v, ok)
+			}
+			if y, ok := impl.TreePut(x, p.Key, "1"); ok || len(y) != 0 {
+				t.Error(name, "with", p.Key, y)
+			}
+			y, ok := impl.TreeDrop(x, p.Key)
+			if want := modelFrom(x, 0).withoutKey(p.Key).nodes(); !ok || !sameTree(y, want) {
+				t.Error(name, "without", p.Key, y, want)
+			}
+		}
+		for _, k := range []string{"", "a", "bb", "k100", "k1000", "z", "too long a key"} {
+			if v, ok := impl.TreeGet(x, k); ok || v != "" {
+				t.Error(name, k, v, ok)
+			}
+			if y, ok := impl.TreePut(x, k, "1"); ok || len(y) != 0 {
+				t.Error(name, "with", k, y)
+			}
+			if y, ok := impl.TreeDrop(x, k); ok || len(y) != 0 {
+				t.Error(name, "without", k, y)
+			}
+		}
+	}
+}
+
+// TestTreesOfManyPairsShrink drops one key behind the other: a pair is put
+// again as soon as there are no more than 60.
+func TestTreesOfManyPairsShrink(t *testing.T) {
+	for name, x := range treesOfMany() {
+		r := rand.New(rand.NewSource(3))
+		for m := pairsIn(x); len(m) > 0; {
+			k := m[r.Intn(len(m))].Key
+			var ok, there bool
+			if x, ok = impl.TreeDrop(x, k); !ok {
+				t.Fatal(name, len(m), k)
+			}
+			m = slices.DeleteFunc(m, func(p impl.Pair) bool { return p.Key == k })
+			checkTree(t, x, m)
+			_, ok = impl.TreePut(x, "new", "1")
+			if len(m) > 0 {
+				_, there = impl.TreePut(x, m[len(m)/2].Key, "1")
+			}
+			if ok != (len(m) < 60) || there != (len(m) <= 60 && len(m) > 0) {
+				t.Fatal(name, len(m), ok, there)
+			}
 		}
 	}
 }

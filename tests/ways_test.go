@@ -119,3 +119,50 @@ func TestWaysOfMapsAndTrees(t *testing.T) {
 		t.Error("l02 has no closure that calls itself")
 	}
 }
+
+// callOf tells whether n calls one of the language's own functions.
+func callOf(name string) func(n ast.Node) bool {
+	return func(n ast.Node) bool {
+		c, ok := n.(*ast.CallExpr)
+		if !ok {
+			return false
+		}
+		f, ok := c.Fun.(*ast.Ident)
+		return ok && f.Name == name
+	}
+}
+
+func isDeferredRecover(n ast.Node) bool {
+	d, ok := n.(*ast.DeferStmt)
+	if !ok {
+		return false
+	}
+	body, ok := d.Call.Fun.(*ast.FuncLit)
+	return ok && anyIn([]ast.Node{body}, callOf("recover"))
+}
+
+func isArray(n ast.Node) bool {
+	a, ok := n.(*ast.ArrayType)
+	return ok && a.Len != nil
+}
+
+func isMap(n ast.Node) bool {
+	_, ok := n.(*ast.MapType)
+	return ok
+}
+
+func TestWaysOfPagesAndShadows(t *testing.T) {
+	byFile := reached(t)
+	if !anyIn(byFile["l03_pages.go"], callOf("panic")) {
+		t.Error("l03 has no reader that gives up with a panic")
+	}
+	if !anyIn(byFile["l03_pages.go"], isDeferredRecover) {
+		t.Error("l03 has no deferred recover")
+	}
+	if !anyIn(byFile["l03_pages.go"], isArray) {
+		t.Error("l03 has no array for the sum's table")
+	}
+	if !anyIn(byFile["l04_shadows.go"], isMap) {
+		t.Error("l04 has no map of pages")
+	}
+}
