@@ -28,10 +28,11 @@ func built() map[string]any {
 		"SumOf": impl.SumOf, "PageOk": impl.PageOk, "PageText": impl.PageText, "ReadPage": impl.ReadPage,
 		"SuperText": impl.SuperText, "ReadSuper": impl.ReadSuper,
 		"ShadowNew": impl.ShadowNew, "ShadowOk": impl.ShadowOk, "ShadowTree": impl.ShadowTree, "ShadowApply": impl.ShadowApply,
+		"Fit": impl.Fit, "Both": impl.Both, "LocksOk": impl.LocksOk, "Ask": impl.Ask, "Free": impl.Free, "WaitsFor": impl.WaitsFor,
 	}
 }
 
-var builtFiles = []string{"l01_maps.go", "l02_trees.go", "l03_pages.go", "l04_shadows.go"}
+var builtFiles = []string{"l01_maps.go", "l02_trees.go", "l03_pages.go", "l04_shadows.go", "l05_locks.go"}
 
 func TestNoFunctionIsLeftOut(t *testing.T) {
 	var declared, looked []string
@@ -323,6 +324,26 @@ func someChanges() [][]impl.Change {
 	}
 }
 
+func someNumbers() []int64 {
+	return []int64{0, 1, 2, 3, 4, 5, 6, 9, 501, 1000, 1001, -1, 1<<32 + 1, math.MaxInt64, math.MinInt64}
+}
+
+func someLocks() []impl.Locks {
+	l := []impl.Locks{
+		{Held: manyHeld(99), Line: manyWaiting(19)},
+		locksOf("1.a.IS 2.a.S 2.b.X", "3.a.X 1.a.IX 4.b.S"),
+		locksOf("1.a.X 2.c.S", "2.a.S 3.c.X"),
+		locksOf("2.a.S 3.a.S", "2.a.X 1.a.X"),
+		locksOf("1.a.X 1.b.X", "2.b.X 3.a.S 4.b.S 5.a.S 6.b.IS"),
+	}
+	l = slices.AppendSeq(l, maps.Values(rightLocks()))
+	return slices.AppendSeq(l, maps.Values(wrongLocks()))
+}
+
+func someHolds() []impl.Hold {
+	return append(holdsOf("0.a.S 1.a.IS 1.a.S 1.a.X 1.c.S 2.a.S 2.a.X 3.b.X 4..IX 5.a.IS 900.a.S 900.free.X 1000..IS 1001.a.S 4.a.0 4.a.5 4.toolong.S"), impl.Hold{})
+}
+
 // valuesOf are arguments for a parameter of that type, a few of them where one
 // ahead of it has all.
 func valuesOf(t *testing.T, of reflect.Type, few bool) []reflect.Value {
@@ -330,7 +351,7 @@ func valuesOf(t *testing.T, of reflect.Type, few bool) []reflect.Value {
 	if few && of.Kind() == reflect.String {
 		return []reflect.Value{reflect.ValueOf(""), reflect.ValueOf("d"), reflect.ValueOf("new"), reflect.ValueOf("too long")}
 	}
-	for _, l := range []any{someMaps(), someTrees(), someTexts(), somePages(), someSupers(), someShadows(), someChanges()} {
+	for _, l := range []any{someMaps(), someTrees(), someTexts(), somePages(), someSupers(), someShadows(), someChanges(), someNumbers(), someLocks(), someHolds()} {
 		if reflect.TypeOf(l).Elem() == of {
 			var values []reflect.Value
 			for i := range reflect.ValueOf(l).Len() {
@@ -381,6 +402,9 @@ func TestGreatArguments(t *testing.T) {
 		impl.Shadow{Pages: []impl.Page{{Id: 1, Kids: make([]int64, 100000)}}, Super: impl.Super{Gen: 1, Root: 1, Next: 2}},
 		impl.Super{Gen: math.MaxInt64, Root: math.MinInt64, Next: math.MaxInt64},
 		impl.Super{Gen: math.MinInt64, Root: math.MaxInt64, Next: math.MinInt64},
+		impl.Locks{Held: make([]impl.Hold, 100000)}, impl.Locks{Line: make([]impl.Hold, 100000)},
+		impl.Hold{Txn: 1, Key: strings.Repeat("a", 100000), Mode: impl.LkS},
+		impl.Hold{Txn: math.MinInt64, Mode: math.MaxInt64}, impl.Hold{Txn: 1, Mode: math.MinInt64},
 	}
 	for name, f := range built() {
 		f := reflect.ValueOf(f)

@@ -166,3 +166,29 @@ func TestWaysOfPagesAndShadows(t *testing.T) {
 		t.Error("l04 has no map of pages")
 	}
 }
+
+// arrayOf tells whether n is an array of the type of that name.
+func arrayOf(name string) func(n ast.Node) bool {
+	return func(n ast.Node) bool {
+		a, ok := n.(*ast.ArrayType)
+		if !ok || a.Len == nil {
+			return false
+		}
+		of, ok := a.Elt.(*ast.Ident)
+		return ok && of.Name == name
+	}
+}
+
+func TestWaysOfLocks(t *testing.T) {
+	locks := reached(t)["l05_locks.go"]
+	found := false
+	for _, n := range locks {
+		if s, ok := n.(*ast.TypeSpec); ok {
+			_, function := s.Type.(*ast.FuncType)
+			found = found || function && anyIn(locks, arrayOf(s.Name.Name))
+		}
+	}
+	if !found {
+		t.Error("l05 has no array of function values for the modes")
+	}
+}
