@@ -122,10 +122,8 @@ func Drop(m []Pair, k string) ([]Pair, bool) {
 	return pairList(m).without(k)
 }
 
-func Range(m []Pair, low string, high string) []Pair {
-	if !MapOk(m) {
-		return nil
-	}
+// within is Range of any pairs by rising keys, however many there are.
+func within(m []Pair, low string, high string) []Pair {
 	from, _ := pairList(m).place(low)
 	to := len(m)
 	if high != "" {
@@ -136,6 +134,13 @@ func Range(m []Pair, low string, high string) []Pair {
 		return nil
 	}
 	return slices.Clone(m[from:to])
+}
+
+func Range(m []Pair, low string, high string) []Pair {
+	if !MapOk(m) {
+		return nil
+	}
+	return within(m, low, high)
 }
 
 func pairText(p Pair) string { return p.Key + "=" + p.Val }

@@ -29,10 +29,12 @@ func built() map[string]any {
 		"SuperText": impl.SuperText, "ReadSuper": impl.ReadSuper,
 		"ShadowNew": impl.ShadowNew, "ShadowOk": impl.ShadowOk, "ShadowTree": impl.ShadowTree, "ShadowApply": impl.ShadowApply,
 		"Fit": impl.Fit, "Both": impl.Both, "LocksOk": impl.LocksOk, "Ask": impl.Ask, "Free": impl.Free, "WaitsFor": impl.WaitsFor,
+		"DbOk": impl.DbOk, "Seen": impl.Seen, "TxnDo": impl.TxnDo,
+		"PlayAll": impl.PlayAll, "TurnsOf": impl.TurnsOf, "Committed": impl.Committed, "OneByOne": impl.OneByOne,
 	}
 }
 
-var builtFiles = []string{"l01_maps.go", "l02_trees.go", "l03_pages.go", "l04_shadows.go", "l05_locks.go"}
+var builtFiles = []string{"l01_maps.go", "l02_trees.go", "l03_pages.go", "l04_shadows.go", "l05_locks.go", "l06_txns.go", "l07_histories.go"}
 
 func TestNoFunctionIsLeftOut(t *testing.T) {
 	var declared, looked []string
@@ -344,6 +346,38 @@ func someHolds() []impl.Hold {
 	return append(holdsOf("0.a.S 1.a.IS 1.a.S 1.a.X 1.c.S 2.a.S 2.a.X 3.b.X 4..IX 5.a.IS 900.a.S 900.free.X 1000..IS 1001.a.S 4.a.0 4.a.5 4.toolong.S"), impl.Hold{})
 }
 
+func someDbs() []impl.Db {
+	l := []impl.Db{
+		dbOf("a:1 b:2", "1..S 2.a.S 2..IS 3.b.S 3..IS", "2..IX 3..IX 4..IX", "1; 2 ? put b 8; 3 ? put a 9; 4 ? put c 7", 4),
+		dbOf("a:1 b:2", "1..IX 1.a.X 2..IX 2.b.X 2.c.X 3..IS", "3.b.S", "1 a:5 d:6; 2 b:7 -c; 3 ? get b", 6),
+		dbOf("a:1", "2.b.X", "3.b.S", "1; 2; 3 ? get b", 5),
+		{Map: numbered(60), Txns: []impl.Txn{{Id: 1, Writes: manyChanges(60)}, {Id: 2, Writes: manyChanges(59)}}, Last: 2},
+	}
+	l[2].Locks.Held = append(l[2].Locks.Held, heldBy(1, 98)...)
+	l = slices.AppendSeq(l, maps.Values(rightDbs()))
+	return slices.AppendSeq(l, maps.Values(wrongDbs()))
+}
+
+func someHistories() [][]impl.Req {
+	l := [][]impl.Req{
+		nil,
+		historyOf("1 begin; 2 begin; 1 put a 5; 2 get a; 1 commit; 2 put b 6; 2 scan; 2 commit; 3 begin; 3 drop zz; 3 abort"),
+		historyOf("1 begin; 2 begin; 3 begin; 1 scan; 2 get a; 3 get b; 2 put b 8; 3 put a 9; 1 commit; 2 commit"),
+		historyOf("1 begin; 1 put e 5; 2 begin; 2 put f 6; 2 commit; 3 begin; 3 get f; 1 commit; 1 abort; 4 begin; 4 put f 1"),
+		historyOf("2 commit; 1 begin a; 1 get toolong; 0 begin; 1001 begin; 1000 begin; 1000 scan; 1000 commit"),
+		beginsAnd(100),
+		beginsAnd(101),
+		make([]impl.Req, 100),
+		make([]impl.Req, 101),
+	}
+	r := rand.New(rand.NewSource(8))
+	for range 10 {
+		m := somePairs(r)
+		l = append(l, someHistory(r, m, 100))
+	}
+	return l
+}
+
 // valuesOf are arguments for a parameter of that type, a few of them where one
 // ahead of it has all.
 func valuesOf(t *testing.T, of reflect.Type, few bool) []reflect.Value {
@@ -351,7 +385,7 @@ func valuesOf(t *testing.T, of reflect.Type, few bool) []reflect.Value {
 	if few && of.Kind() == reflect.String {
 		return []reflect.Value{reflect.ValueOf(""), reflect.ValueOf("d"), reflect.ValueOf("new"), reflect.ValueOf("too long")}
 	}
-	for _, l := range []any{someMaps(), someTrees(), someTexts(), somePages(), someSupers(), someShadows(), someChanges(), someNumbers(), someLocks(), someHolds()} {
+	for _, l := range []any{someMaps(), someTrees(), someTexts(), somePages(), someSupers(), someShadows(), someChanges(), someNumbers(), someLocks(), someHolds(), someDbs(), someReqs(), someHistories()} {
 		if reflect.TypeOf(l).Elem() == of {
 			var values []reflect.Value
 			for i := range reflect.ValueOf(l).Len() {
@@ -405,6 +439,15 @@ func TestGreatArguments(t *testing.T) {
 		impl.Locks{Held: make([]impl.Hold, 100000)}, impl.Locks{Line: make([]impl.Hold, 100000)},
 		impl.Hold{Txn: 1, Key: strings.Repeat("a", 100000), Mode: impl.LkS},
 		impl.Hold{Txn: math.MinInt64, Mode: math.MaxInt64}, impl.Hold{Txn: 1, Mode: math.MinInt64},
+		impl.Db{Map: make([]impl.Pair, 100000)}, impl.Db{Txns: make([]impl.Txn, 100000), Last: 1000},
+		impl.Db{Locks: impl.Locks{Held: make([]impl.Hold, 100000)}, Txns: txnsOf("1"), Last: 1},
+		impl.Db{Txns: []impl.Txn{{Id: 1, Writes: make([]impl.Change, 100000)}}, Last: 1},
+		impl.Db{Txns: []impl.Txn{{Id: math.MaxInt64}}, Last: math.MaxInt64}, impl.Db{Txns: []impl.Txn{{Id: math.MinInt64}}, Last: math.MinInt64},
+		impl.Req{Txn: math.MaxInt64, Kind: impl.TqBegin}, impl.Req{Txn: math.MinInt64, Kind: impl.TqGet, Key: "a"},
+		impl.Req{Txn: 1, Kind: math.MaxInt64}, impl.Req{Txn: 1, Kind: math.MinInt64},
+		impl.Req{Txn: 1, Kind: impl.TqPut, Key: strings.Repeat("a", 100000), Val: strings.Repeat("a", 100000)},
+		impl.Req{Txn: 1, Kind: impl.TqScan, Key: strings.Repeat("a", 100000), Val: strings.Repeat("a", 100000)},
+		make([]impl.Req, 100000), reqsOf(slices.Repeat([]string{"1 begin"}, 100000)...),
 	}
 	for name, f := range built() {
 		f := reflect.ValueOf(f)

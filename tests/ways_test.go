@@ -192,3 +192,54 @@ func TestWaysOfLocks(t *testing.T) {
 		t.Error("l05 has no array of function values for the modes")
 	}
 }
+
+// callIn tells whether n calls that function of a package.
+func callIn(pack string, name string) func(n ast.Node) bool {
+	return func(n ast.Node) bool {
+		c, ok := n.(*ast.CallExpr)
+		if !ok {
+			return false
+		}
+		f, ok := c.Fun.(*ast.SelectorExpr)
+		if !ok {
+			return false
+		}
+		of, ok := f.X.(*ast.Ident)
+		return ok && of.Name == pack && f.Sel.Name == name
+	}
+}
+
+func isUnwrap(n ast.Node) bool {
+	f, ok := n.(*ast.FuncDecl)
+	return ok && f.Recv != nil && f.Name.Name == "Unwrap"
+}
+
+func isGoThatSends(n ast.Node) bool {
+	g, ok := n.(*ast.GoStmt)
+	return ok && anyIn([]ast.Node{g}, func(n ast.Node) bool {
+		_, sends := n.(*ast.SendStmt)
+		return sends
+	})
+}
+
+func TestWaysOfTransactionsAndHistories(t *testing.T) {
+	byFile := reached(t)
+	txns := byFile["l06_txns.go"]
+	if !anyIn(txns, callIn("errors", "Is")) || !anyIn(txns, callIn("errors", "As")) {
+		t.Error("l06 does not ask its refusals by errors.Is and errors.As")
+	}
+	file, err := parser.ParseFile(token.NewFileSet(), filepath.Join("..", "impl", "l06_txns.go"), nil, 0)
+	if err != nil {
+		t.Fatal(err)
+	}
+	if !anyIn([]ast.Node{file}, isUnwrap) {
+		t.Error("l06 has no error that wraps another one")
+	}
+	histories := byFile["l07_histories.go"]
+	if !anyIn(histories, isGoThatSends) {
+		t.Error("l07 has no goroutine that hands requests on")
+	}
+	if !anyIn(histories, func(n ast.Node) bool { _, channel := n.(*ast.ChanType); return channel }) {
+		t.Error("l07 has no channel of requests")
+	}
+}
