@@ -31,10 +31,12 @@ func built() map[string]any {
 		"Fit": impl.Fit, "Both": impl.Both, "LocksOk": impl.LocksOk, "Ask": impl.Ask, "Free": impl.Free, "WaitsFor": impl.WaitsFor,
 		"DbOk": impl.DbOk, "Seen": impl.Seen, "TxnDo": impl.TxnDo,
 		"PlayAll": impl.PlayAll, "TurnsOf": impl.TurnsOf, "Committed": impl.Committed, "OneByOne": impl.OneByOne,
+		"Seek": impl.Seek, "After": impl.After, "Before": impl.Before, "Rank": impl.Rank, "Nth": impl.Nth,
+		"DeltaOk": impl.DeltaOk, "DeltaOf": impl.DeltaOf, "Changed": impl.Changed, "Joined": impl.Joined, "Merged": impl.Merged,
 	}
 }
 
-var builtFiles = []string{"l01_maps.go", "l02_trees.go", "l03_pages.go", "l04_shadows.go", "l05_locks.go", "l06_txns.go", "l07_histories.go"}
+var builtFiles = []string{"l01_maps.go", "l02_trees.go", "l03_pages.go", "l04_shadows.go", "l05_locks.go", "l06_txns.go", "l07_histories.go", "l08_cursors.go", "l09_deltas.go"}
 
 func TestNoFunctionIsLeftOut(t *testing.T) {
 	var declared, looked []string
@@ -314,7 +316,7 @@ func someShadows() []impl.Shadow {
 }
 
 func someChanges() [][]impl.Change {
-	return [][]impl.Change{
+	l := [][]impl.Change{
 		nil,
 		changesOf("a"), changesOf("e"), changesOf("zz"), changesOf("-a"), changesOf("-e"), changesOf("-zz"),
 		changesOf("c:9", "cc", "ccc", "-d", "-a", "f:1"),
@@ -324,6 +326,8 @@ func someChanges() [][]impl.Change {
 		changesOf("a", "too-long"),
 		{{}},
 	}
+	l = slices.AppendSeq(l, maps.Values(rightDeltas()))
+	return slices.AppendSeq(l, maps.Values(wrongDeltas()))
 }
 
 func someNumbers() []int64 {
@@ -428,7 +432,12 @@ func TestConventions(t *testing.T) {
 
 // TestGreatArguments would stop at a panic, or not end.
 func TestGreatArguments(t *testing.T) {
+	var many []impl.Pair
+	for i := range 100000 {
+		many = append(many, impl.Pair{Key: strconv.Itoa(100000 + i), Val: "1"})
+	}
 	great := []any{
+		many, puts(many), drops(many), []impl.Node{{Pairs: many}},
 		strings.Repeat("a", 100000), strings.Repeat("a=1 ", 100000), strings.Repeat(" ", 100000),
 		make([]impl.Pair, 100000), make([]impl.Node, 100000), make([]impl.Change, 100000),
 		impl.Page{Id: 1, Pairs: make([]impl.Pair, 100000)}, impl.Page{Id: 1, Kids: make([]int64, 100000)},

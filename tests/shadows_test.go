@@ -726,10 +726,7 @@ func someWords(r *rand.Rand, grows bool) []impl.Change {
 }
 
 func changedMap(m []impl.Pair, l []impl.Change) []impl.Pair {
-	have := map[string]string{}
-	for _, p := range m {
-		have[p.Key] = p.Val
-	}
+	have := valuesIn(m)
 	for _, c := range l {
 		if c.Gone {
 			delete(have, c.Key)
@@ -737,10 +734,5 @@ func changedMap(m []impl.Pair, l []impl.Change) []impl.Pair {
 			have[c.Key] = c.Val
 		}
 	}
-	m = nil
-	for k, v := range have {
-		m = append(m, impl.Pair{Key: k, Val: v})
-	}
-	slices.SortFunc(m, func(a impl.Pair, b impl.Pair) int { return strings.Compare(a.Key, b.Key) })
-	return m
+	return pairsFrom(have)
 }

@@ -177,19 +177,7 @@ func wrongDbs() map[string]impl.Db {
 	for name, m := range wrongMaps() {
 		l["a map: "+name] = impl.Db{Map: m}
 	}
-	for name, x := range map[string][]impl.Change{
-		"61 changes":          manyChanges(61),
-		"keys fall":           changesOf("b", "a"),
-		"two alike":           changesOf("a", "a"),
-		"put and gone":        changesOf("a", "-a"),
-		"an empty key":        {{Val: "1"}},
-		"an empty value":      {{Key: "a"}},
-		"a key of 7":          changesOf("abcdefg:1"),
-		"a value of 7":        changesOf("a:abcdefg"),
-		"gone, with a value":  {{Key: "a", Val: "1", Gone: true}},
-		"gone, with no key":   {{Gone: true}},
-		"the last one, wrong": changesOf("a", "b", "c="),
-	} {
+	for name, x := range wrongDeltas() {
 		l["writes: "+name] = impl.Db{Txns: []impl.Txn{{Id: 1}, {Id: 2, Writes: x}}, Last: 2}
 	}
 	l["101 locks"] = impl.Db{Locks: impl.Locks{Held: heldBy(1, 101)}, Txns: txnsOf("1"), Last: 1}

@@ -243,3 +243,72 @@ func TestWaysOfTransactionsAndHistories(t *testing.T) {
 		t.Error("l07 has no channel of requests")
 	}
 }
+
+// rangesOverOneOf tells whether n ranges over what a call of one of these
+// functions gives.
+func rangesOverOneOf(names map[string]bool) func(n ast.Node) bool {
+	return func(n ast.Node) bool {
+		r, ok := n.(*ast.RangeStmt)
+		if !ok {
+			return false
+		}
+		c, ok := r.X.(*ast.CallExpr)
+		if !ok {
+			return false
+		}
+		f, ok := c.Fun.(*ast.Ident)
+		return ok && names[f.Name]
+	}
+}
+
+// iterators are the functions among these that give one over which one ranges.
+func iterators(nodes []ast.Node) map[string]bool {
+	names := map[string]bool{}
+	for _, n := range nodes {
+		f, ok := n.(*ast.FuncDecl)
+		if !ok || f.Type.Results == nil {
+			continue
+		}
+		for _, r := range f.Type.Results.List {
+			if anyIn([]ast.Node{r.Type}, isSeq) {
+				names[f.Name.Name] = true
+			}
+		}
+	}
+	return names
+}
+
+func isSeq(n ast.Node) bool {
+	s, ok := n.(*ast.SelectorExpr)
+	if !ok {
+		return false
+	}
+	of, ok := s.X.(*ast.Ident)
+	return ok && of.Name == "iter"
+}
+
+// isLabelledLoopLeftByGoto tells whether n is a loop with a label, out of which
+// a goto leads.
+func isLabelledLoopLeftByGoto(n ast.Node) bool {
+	l, ok := n.(*ast.LabeledStmt)
+	if !ok {
+		return false
+	}
+	_, counts := l.Stmt.(*ast.ForStmt)
+	_, ranges := l.Stmt.(*ast.RangeStmt)
+	return (counts || ranges) && anyIn([]ast.Node{l.Stmt}, func(n ast.Node) bool {
+		b, ok := n.(*ast.BranchStmt)
+		return ok && b.Tok == token.GOTO && b.Label.Name != l.Label.Name
+	})
+}
+
+func TestWaysOfCursorsAndDeltas(t *testing.T) {
+	byFile := reached(t)
+	cursors := byFile["l08_cursors.go"]
+	if !anyIn(cursors, rangesOverOneOf(iterators(cursors))) {
+		t.Error("l08 has no range over a function")
+	}
+	if !anyIn(byFile["l09_deltas.go"], isLabelledLoopLeftByGoto) {
+		t.Error("l09 has no labelled loop that is left by goto")
+	}
+}
