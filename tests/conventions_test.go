@@ -33,10 +33,12 @@ func built() map[string]any {
 		"PlayAll": impl.PlayAll, "TurnsOf": impl.TurnsOf, "Committed": impl.Committed, "OneByOne": impl.OneByOne,
 		"Seek": impl.Seek, "After": impl.After, "Before": impl.Before, "Rank": impl.Rank, "Nth": impl.Nth,
 		"DeltaOk": impl.DeltaOk, "DeltaOf": impl.DeltaOf, "Changed": impl.Changed, "Joined": impl.Joined, "Merged": impl.Merged,
+		"DiskOk": impl.DiskOk, "Do": impl.Do, "Sync": impl.Sync, "Crash": impl.Crash, "ReadFile": impl.ReadFile, "Replace": impl.Replace,
+		"StoreShadow": impl.StoreShadow, "StoreView": impl.StoreView, "StoreDo": impl.StoreDo, "StorePlay": impl.StorePlay,
 	}
 }
 
-var builtFiles = []string{"l01_maps.go", "l02_trees.go", "l03_pages.go", "l04_shadows.go", "l05_locks.go", "l06_txns.go", "l07_histories.go", "l08_cursors.go", "l09_deltas.go"}
+var builtFiles = []string{"l01_maps.go", "l02_trees.go", "l03_pages.go", "l04_shadows.go", "l05_locks.go", "l06_txns.go", "l07_histories.go", "l08_cursors.go", "l09_deltas.go", "l10_disks.go", "l11_stores.go"}
 
 func TestNoFunctionIsLeftOut(t *testing.T) {
 	var declared, looked []string
@@ -382,6 +384,53 @@ func someHistories() [][]impl.Req {
 	return l
 }
 
+// someDisks are right ones, with stores and without, and wrong ones; the heavy
+// ones, which take long to write, are left out.
+func someDisks() []impl.Disk {
+	a, b := twoSlots(9, 2)
+	fresh, _ := impl.StoreDo(impl.Disk{}, act(impl.AcNew))
+	one, _ := impl.StoreDo(fresh, applies("a", "b", "c"))
+	lost, _ := impl.StoreDo(one, withPower(applies("d", "e"), 5))
+	l := []impl.Disk{lost, one, fresh, laid(a, b), laid(a, withoutFiles(b, "p7")), laid(withoutFiles(a, "p4"), b), laid(withoutFiles(a, "p4")), diskOf("a:1 b:2", "+a:3 >b:c +d:4567", "a:13 c:2 d:4567"), worn(laid(a, b).Live, 200)}
+	for name, d := range rightDisks() {
+		if !strings.Contains(name, "bytes") || name == "names of any bytes" {
+			l = append(l, d)
+		}
+	}
+	for name, d := range wrongDisks() {
+		if !strings.Contains(name, "bytes") && !strings.HasPrefix(name, "an op, done nothing") {
+			l = append(l, d)
+		}
+	}
+	return l
+}
+
+func someActs() []impl.Act {
+	l := []impl.Act{act(impl.AcNew), act(impl.AcOpen), withPower(act(impl.AcNew), 2), withPower(act(impl.AcOpen), 1), act(0), act(5), act(-1), act(math.MinInt64), {}}
+	for _, words := range [][]string{nil, {"a"}, {"-a", "z"}, {"d", "e", "f", "g"}, {"toolong"}} {
+		for _, power := range []int64{-1, 0, 1, 2, 4, math.MaxInt64} {
+			l = append(l, withPower(applies(words...), power))
+		}
+	}
+	for _, keep := range [][]int64{nil, {0}, {0, 1}, {1}, {1, 0}, {-1}, {0, 200}} {
+		for _, torn := range []int64{0, 3, -1, math.MaxInt64} {
+			l = append(l, crashed(keep, torn), withPower(crashed(keep, torn), 1))
+		}
+	}
+	return l
+}
+
+func someActLists() [][]impl.Act {
+	return [][]impl.Act{
+		nil,
+		{act(impl.AcOpen)},
+		{act(impl.AcNew), applies("a", "b"), applies("c"), act(impl.AcOpen)},
+		{withPower(applies("q"), 3), crashed(nil, 0), applies("q"), withPower(applies("r"), 5), crashed([]int64{0}, 3)},
+		{act(9), applies("toolong"), crashed([]int64{-1}, 0)},
+		someActs(),
+	}
+}
+
 // valuesOf are arguments for a parameter of that type, a few of them where one
 // ahead of it has all.
 func valuesOf(t *testing.T, of reflect.Type, few bool) []reflect.Value {
@@ -389,7 +438,7 @@ func valuesOf(t *testing.T, of reflect.Type, few bool) []reflect.Value {
 	if few && of.Kind() == reflect.String {
 		return []reflect.Value{reflect.ValueOf(""), reflect.ValueOf("d"), reflect.ValueOf("new"), reflect.ValueOf("too long")}
 	}
-	for _, l := range []any{someMaps(), someTrees(), someTexts(), somePages(), someSupers(), someShadows(), someChanges(), someNumbers(), someLocks(), someHolds(), someDbs(), someReqs(), someHistories()} {
+	for _, l := range []any{someMaps(), someTrees(), someTexts(), somePages(), someSupers(), someShadows(), someChanges(), someNumbers(), someLocks(), someHolds(), someDbs(), someReqs(), someHistories(), someDisks(), someDops(), someKeeps(), someActs(), someActLists()} {
 		if reflect.TypeOf(l).Elem() == of {
 			var values []reflect.Value
 			for i := range reflect.ValueOf(l).Len() {
@@ -436,6 +485,11 @@ func TestGreatArguments(t *testing.T) {
 	for i := range 100000 {
 		many = append(many, impl.Pair{Key: strconv.Itoa(100000 + i), Val: "1"})
 	}
+	heavy := impl.DOp{Kind: impl.DkAppend, Name: "a", Data: strings.Repeat("a", 10000000)}
+	files := make([]impl.File, 100000)
+	for i := range files {
+		files[i] = impl.File{Name: strconv.Itoa(100000 + i), Data: heavy.Data}
+	}
 	great := []any{
 		many, puts(many), drops(many), []impl.Node{{Pairs: many}},
 		strings.Repeat("a", 100000), strings.Repeat("a=1 ", 100000), strings.Repeat(" ", 100000),
@@ -456,6 +510,13 @@ func TestGreatArguments(t *testing.T) {
 		impl.Req{Txn: 1, Kind: math.MaxInt64}, impl.Req{Txn: 1, Kind: math.MinInt64},
 		impl.Req{Txn: 1, Kind: impl.TqPut, Key: strings.Repeat("a", 100000), Val: strings.Repeat("a", 100000)},
 		impl.Req{Txn: 1, Kind: impl.TqScan, Key: strings.Repeat("a", 100000), Val: strings.Repeat("a", 100000)},
+		impl.Disk{Live: make([]impl.File, 100000)}, impl.Disk{Safe: make([]impl.File, 100000)}, impl.Disk{Ops: make([]impl.DOp, 100000)},
+		impl.Disk{Live: files, Safe: files}, impl.Disk{Ops: slices.Repeat([]impl.DOp{heavy}, 200)}, impl.Disk{Ops: slices.Repeat([]impl.DOp{heavy}, 100000)},
+		syncedDisk([]impl.File{{Name: "a", Data: heavy.Data}}), syncedDisk([]impl.File{{Name: heavy.Data}}),
+		heavy, impl.DOp{Kind: impl.DkAppend, Name: heavy.Data}, impl.DOp{Kind: impl.DkRename, Name: "a", To: heavy.Data}, impl.DOp{Kind: math.MinInt64, Name: "a"}, heavy.Data,
+		make([]int64, 100000), rising(0, 100000), []int64{math.MinInt64, math.MaxInt64}, int64(math.MinInt64), int64(math.MaxInt64),
+		make([]impl.Act, 100000), impl.Act{Kind: math.MaxInt64, Power: math.MinInt64}, impl.Act{Kind: impl.AcCrash, Keep: rising(0, 100000), Torn: math.MaxInt64},
+		impl.Act{Kind: impl.AcApply, Changes: make([]impl.Change, 100000), Power: math.MaxInt64},
 		make([]impl.Req, 100000), reqsOf(slices.Repeat([]string{"1 begin"}, 100000)...),
 	}
 	for name, f := range built() {

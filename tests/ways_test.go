@@ -312,3 +312,71 @@ func TestWaysOfCursorsAndDeltas(t *testing.T) {
 		t.Error("l09 has no labelled loop that is left by goto")
 	}
 }
+
+// interfaces are the types among these that are interfaces with methods.
+func interfaces(nodes []ast.Node) map[string]bool {
+	names := map[string]bool{}
+	for _, n := range nodes {
+		s, ok := n.(*ast.TypeSpec)
+		if !ok {
+			continue
+		}
+		if i, ok := s.Type.(*ast.InterfaceType); ok && len(i.Methods.List) > 0 {
+			names[s.Name.Name] = true
+		}
+	}
+	return names
+}
+
+// tellsApart tells whether n is a function with a parameter of one of these
+// types, and a type switch of it.
+func tellsApart(names map[string]bool) func(n ast.Node) bool {
+	return func(n ast.Node) bool {
+		f, ok := n.(*ast.FuncDecl)
+		if !ok || !anyIn([]ast.Node{f.Body}, isTypeSwitch) {
+			return false
+		}
+		for _, p := range f.Type.Params.List {
+			if of, ok := p.Type.(*ast.Ident); ok && names[of.Name] {
+				return true
+			}
+		}
+		return false
+	}
+}
+
+func isTypeSwitch(n ast.Node) bool {
+	_, ok := n.(*ast.TypeSwitchStmt)
+	return ok
+}
+
+// listOf tells whether n is a list of the type of that name.
+func listOf(name string) func(n ast.Node) bool {
+	return func(n ast.Node) bool {
+		a, ok := n.(*ast.ArrayType)
+		if !ok || a.Len != nil {
+			return false
+		}
+		of, ok := a.Elt.(*ast.Ident)
+		return ok && of.Name == name
+	}
+}
+
+func TestWaysOfDisksAndStores(t *testing.T) {
+	byFile := reached(t)
+	disks := byFile["l10_disks.go"]
+	if !anyIn(disks, tellsApart(interfaces(disks))) {
+		t.Error("l10 has no ops behind an interface that a type switch tells apart")
+	}
+	stores := byFile["l11_stores.go"]
+	found := false
+	for _, n := range stores {
+		if s, ok := n.(*ast.TypeSpec); ok {
+			_, function := s.Type.(*ast.FuncType)
+			found = found || function && anyIn(stores, listOf(s.Name.Name))
+		}
+	}
+	if !found {
+		t.Error("l11 has no list of function values for the steps")
+	}
+}
