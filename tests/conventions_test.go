@@ -35,10 +35,14 @@ func built() map[string]any {
 		"DeltaOk": impl.DeltaOk, "DeltaOf": impl.DeltaOf, "Changed": impl.Changed, "Joined": impl.Joined, "Merged": impl.Merged,
 		"DiskOk": impl.DiskOk, "Do": impl.Do, "Sync": impl.Sync, "Crash": impl.Crash, "ReadFile": impl.ReadFile, "Replace": impl.Replace,
 		"StoreShadow": impl.StoreShadow, "StoreView": impl.StoreView, "StoreDo": impl.StoreDo, "StorePlay": impl.StorePlay,
+		"BitsOk": impl.BitsOk, "BitsOf": impl.BitsOf, "Take": impl.Take, "Give": impl.Give, "Count": impl.Count, "Packed": impl.Packed,
+		"SnapsNew": impl.SnapsNew, "SnapsOk": impl.SnapsOk, "SnapTake": impl.SnapTake, "SnapDrop": impl.SnapDrop,
+		"SnapApply": impl.SnapApply, "SnapBack": impl.SnapBack, "SnapView": impl.SnapView,
+		"ScanUp": impl.ScanUp, "ScanDown": impl.ScanDown, "CountIn": impl.CountIn, "FirstUnlike": impl.FirstUnlike,
 	}
 }
 
-var builtFiles = []string{"l01_maps.go", "l02_trees.go", "l03_pages.go", "l04_shadows.go", "l05_locks.go", "l06_txns.go", "l07_histories.go", "l08_cursors.go", "l09_deltas.go", "l10_disks.go", "l11_stores.go"}
+var builtFiles = []string{"l01_maps.go", "l02_trees.go", "l03_pages.go", "l04_shadows.go", "l05_locks.go", "l06_txns.go", "l07_histories.go", "l08_cursors.go", "l09_deltas.go", "l10_disks.go", "l11_stores.go", "l12_frees.go", "l13_snaps.go", "l14_scans.go"}
 
 func TestNoFunctionIsLeftOut(t *testing.T) {
 	var declared, looked []string
@@ -431,14 +435,37 @@ func someActLists() [][]impl.Act {
 	}
 }
 
-// valuesOf are arguments for a parameter of that type, a few of them where one
-// ahead of it has all.
-func valuesOf(t *testing.T, of reflect.Type, few bool) []reflect.Value {
+func someBits() []impl.Bits {
+	var l []impl.Bits
+	for _, s := range rightBits() {
+		l = append(l, bitsFrom(s))
+	}
+	return slices.AppendSeq(l, maps.Values(wrongBits()))
+}
+
+// someSnaps are right ones and wrong ones; those that are no more than a store
+// that is not right are left out.
+func someSnaps() []impl.Snaps {
+	l := slices.Collect(maps.Values(rightSnaps()))
+	for name, s := range wrongSnaps() {
+		if !strings.HasPrefix(name, "a store: ") {
+			l = append(l, s)
+		}
+	}
+	return l
+}
+
+// valuesOf are arguments for a parameter of that type, a few of them where those
+// ahead of it have many.
+func valuesOf(t *testing.T, of reflect.Type, ahead int) []reflect.Value {
 	t.Helper()
-	if few && of.Kind() == reflect.String {
+	if ahead >= 2 && of.Kind() == reflect.String {
 		return []reflect.Value{reflect.ValueOf(""), reflect.ValueOf("d"), reflect.ValueOf("new"), reflect.ValueOf("too long")}
 	}
-	for _, l := range []any{someMaps(), someTrees(), someTexts(), somePages(), someSupers(), someShadows(), someChanges(), someNumbers(), someLocks(), someHolds(), someDbs(), someReqs(), someHistories(), someDisks(), someDops(), someKeeps(), someActs(), someActLists()} {
+	if ahead >= 3 && of.Kind() == reflect.Int64 {
+		return []reflect.Value{reflect.ValueOf(int64(-1)), reflect.ValueOf(int64(2)), reflect.ValueOf(int64(math.MaxInt64))}
+	}
+	for _, l := range []any{someMaps(), someTrees(), someTexts(), somePages(), someSupers(), someShadows(), someChanges(), someNumbers(), someLocks(), someHolds(), someDbs(), someReqs(), someHistories(), someDisks(), someDops(), someKeeps(), someActs(), someActLists(), someBits(), someSnaps()} {
 		if reflect.TypeOf(l).Elem() == of {
 			var values []reflect.Value
 			for i := range reflect.ValueOf(l).Len() {
@@ -456,7 +483,7 @@ func choices(t *testing.T, f reflect.Value) [][]reflect.Value {
 	t.Helper()
 	var of [][]reflect.Value
 	for i := range f.Type().NumIn() {
-		of = append(of, valuesOf(t, f.Type().In(i), i == 2))
+		of = append(of, valuesOf(t, f.Type().In(i), i))
 	}
 	return of
 }
@@ -477,6 +504,15 @@ func TestConventions(t *testing.T) {
 		}
 		give(nil)
 	}
+}
+
+// longChain has that many pages, each of which leads to the next two.
+func longChain(n int64) impl.Snaps {
+	s := impl.Snaps{Super: impl.Super{Gen: 1, Root: 1, Next: n + 1}, Taken: takenOf("one:1 two:2")}
+	for id := int64(1); id <= n; id++ {
+		s.Pages = append(s.Pages, page(id, id+1, id+2))
+	}
+	return s
 }
 
 // TestGreatArguments would stop at a panic, or not end.
@@ -517,6 +553,12 @@ func TestGreatArguments(t *testing.T) {
 		make([]int64, 100000), rising(0, 100000), []int64{math.MinInt64, math.MaxInt64}, int64(math.MinInt64), int64(math.MaxInt64),
 		make([]impl.Act, 100000), impl.Act{Kind: math.MaxInt64, Power: math.MinInt64}, impl.Act{Kind: impl.AcCrash, Keep: rising(0, 100000), Torn: math.MaxInt64},
 		impl.Act{Kind: impl.AcApply, Changes: make([]impl.Change, 100000), Power: math.MaxInt64},
+		impl.Bits{Size: 100000, Used: make([]bool, 100000)}, impl.Bits{Size: 200, Used: make([]bool, 100000)}, impl.Bits{Size: math.MaxInt64, Used: make([]bool, 200)}, impl.Bits{Size: math.MinInt64},
+		impl.Snaps{Pages: make([]impl.Page, 100000), Super: impl.Super{Gen: 1, Root: 1, Next: 2}}, impl.Snaps{Pages: manyPages(100000), Super: impl.Super{Gen: 1, Root: 1, Next: 1000000}},
+		impl.Snaps{Pages: []impl.Page{{Id: 1}}, Super: impl.Super{Gen: 1, Root: 1, Next: 2}, Taken: make([]impl.Snap, 100000)},
+		impl.Snaps{Pages: []impl.Page{{Id: 1}}, Super: impl.Super{Gen: 1, Root: 1, Next: 2}, Taken: []impl.Snap{{Name: heavy.Data, Root: 1}}},
+		impl.Snaps{Pages: []impl.Page{{Id: 1}}, Super: impl.Super{Gen: 1, Root: 1, Next: 2}, Taken: []impl.Snap{{Name: "one", Root: math.MaxInt64}, {Name: "two", Root: math.MinInt64}}},
+		impl.Snaps{Pages: []impl.Page{{Id: 1, Kids: make([]int64, 100000)}}, Super: impl.Super{Gen: 1, Root: 1, Next: 2}}, longChain(400), longChain(401),
 		make([]impl.Req, 100000), reqsOf(slices.Repeat([]string{"1 begin"}, 100000)...),
 	}
 	for name, f := range built() {

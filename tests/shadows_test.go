@@ -12,13 +12,11 @@ import (
 	"loop.example/g00573/impl"
 )
 
-// storeOf has a page for each text: "4 leaf a b" is page 4 with these pairs
-// (words as for pairsOf), "6 kids 4 5" is page 6 with these kids. super has Gen,
-// Root and Next.
-func storeOf(super string, pages ...string) impl.Shadow {
-	var s impl.Shadow
-	fmt.Sscan(super, &s.Super.Gen, &s.Super.Root, &s.Super.Next)
-	for _, text := range pages {
+// pagesFrom has a page for each text: "4 leaf a b" is page 4 with these pairs
+// (words as for pairsOf), "6 kids 4 5" is page 6 with these kids.
+func pagesFrom(texts ...string) []impl.Page {
+	var l []impl.Page
+	for _, text := range texts {
 		words := strings.Fields(text)
 		id, _ := strconv.ParseInt(words[0], 10, 64)
 		p := impl.Page{Id: id}
@@ -30,9 +28,22 @@ func storeOf(super string, pages ...string) impl.Shadow {
 				p.Kids = append(p.Kids, kid)
 			}
 		}
-		s.Pages = append(s.Pages, p)
+		l = append(l, p)
 	}
-	return s
+	return l
+}
+
+// superOf reads Gen, Root and Next.
+func superOf(s string) impl.Super {
+	var super impl.Super
+	fmt.Sscan(s, &super.Gen, &super.Root, &super.Next)
+	return super
+}
+
+// storeOf is the store with that Super and these pages, as superOf and pagesFrom
+// read them.
+func storeOf(super string, pages ...string) impl.Shadow {
+	return impl.Shadow{Pages: pagesFrom(pages...), Super: superOf(super)}
 }
 
 // changesOf has a change for each word: "a" puts the key a with the value va,

@@ -380,3 +380,18 @@ func TestWaysOfDisksAndStores(t *testing.T) {
 		t.Error("l11 has no list of function values for the steps")
 	}
 }
+
+func TestWaysOfFreePagesSnapshotsAndScans(t *testing.T) {
+	byFile := reached(t)
+	if !anyIn(byFile["l12_frees.go"], arrayOf("uint64")) {
+		t.Error("l12 has no array of words for the bits")
+	}
+	snaps := byFile["l13_snaps.go"]
+	if !anyIn(snaps, isMap) || !anyIn(snaps, callIn("slices", "Sorted")) {
+		t.Error("l13 has no roots in a map, told in order")
+	}
+	scans := byFile["l14_scans.go"]
+	if !anyIn(scans, rangesOverOneOf(iterators(scans))) {
+		t.Error("l14 has no range over a function")
+	}
+}
