@@ -18,8 +18,8 @@ import (
 	"loop.example/g00573/impl"
 )
 
-// built has the functions of the chapters that are built.
-func built() map[string]any {
+// everyFunction has all functions of all chapters.
+func everyFunction() map[string]any {
 	return map[string]any{
 		"KeyOk": impl.KeyOk, "MapOk": impl.MapOk, "Get": impl.Get, "Put": impl.Put, "Drop": impl.Drop,
 		"Range": impl.Range, "MapText": impl.MapText, "ReadMap": impl.ReadMap,
@@ -39,15 +39,15 @@ func built() map[string]any {
 		"SnapsNew": impl.SnapsNew, "SnapsOk": impl.SnapsOk, "SnapTake": impl.SnapTake, "SnapDrop": impl.SnapDrop,
 		"SnapApply": impl.SnapApply, "SnapBack": impl.SnapBack, "SnapView": impl.SnapView,
 		"ScanUp": impl.ScanUp, "ScanDown": impl.ScanDown, "CountIn": impl.CountIn, "FirstUnlike": impl.FirstUnlike,
+		"RunScript": impl.RunScript,
 	}
 }
 
-var builtFiles = []string{"l01_maps.go", "l02_trees.go", "l03_pages.go", "l04_shadows.go", "l05_locks.go", "l06_txns.go", "l07_histories.go", "l08_cursors.go", "l09_deltas.go", "l10_disks.go", "l11_stores.go", "l12_frees.go", "l13_snaps.go", "l14_scans.go"}
-
 func TestNoFunctionIsLeftOut(t *testing.T) {
 	var declared, looked []string
-	for _, name := range builtFiles {
-		f, err := parser.ParseFile(token.NewFileSet(), filepath.Join("..", "impl", name), nil, 0)
+	files, _ := filepath.Glob(filepath.Join("..", "impl", "*.go"))
+	for _, name := range files {
+		f, err := parser.ParseFile(token.NewFileSet(), name, nil, 0)
 		if err != nil {
 			t.Fatal(err)
 		}
@@ -57,7 +57,7 @@ func TestNoFunctionIsLeftOut(t *testing.T) {
 			}
 		}
 	}
-	for name := range built() {
+	for name := range everyFunction() {
 		looked = append(looked, name)
 	}
 	slices.Sort(declared)
@@ -309,6 +309,14 @@ func someTexts() []string {
 	}
 }
 
+func someScripts() []string {
+	all := "1 begin\n2 begin\n1 put a 5\n2 get a\n1 put b 6\nwaits\n1 commit\n2 scan - z\n2 drop b\n2 commit\nshow\ntree\n"
+	return []string{
+		all, all + "fly away\n \n3 begin\n4 begin\n3 put a 1\n4 put b 1\n3 get b\n4 get a\n3 abort\n", all + "show", all + strings.Repeat(" ", 4000-len(all)-1) + "\n",
+		"\n", " \n\n", "show\n", "show", "1 get a\n", "0 begin\n", "x get a\n", "1 get\n", "\t\r\n\xff\n", strings.Repeat("show\n", 40), strings.Repeat("show\n", 41), strings.Repeat(" ", 4000) + "\n",
+	}
+}
+
 func somePages() []impl.Page {
 	return slices.AppendSeq(slices.Collect(maps.Values(rightPages())), maps.Values(wrongPages()))
 }
@@ -459,6 +467,9 @@ func someSnaps() []impl.Snaps {
 // ahead of it have many.
 func valuesOf(t *testing.T, of reflect.Type, ahead int) []reflect.Value {
 	t.Helper()
+	if ahead == 0 && of.Kind() == reflect.String {
+		return eachOf(slices.Concat(someTexts(), someScripts()))
+	}
 	if ahead >= 2 && of.Kind() == reflect.String {
 		return []reflect.Value{reflect.ValueOf(""), reflect.ValueOf("d"), reflect.ValueOf("new"), reflect.ValueOf("too long")}
 	}
@@ -467,15 +478,19 @@ func valuesOf(t *testing.T, of reflect.Type, ahead int) []reflect.Value {
 	}
 	for _, l := range []any{someMaps(), someTrees(), someTexts(), somePages(), someSupers(), someShadows(), someChanges(), someNumbers(), someLocks(), someHolds(), someDbs(), someReqs(), someHistories(), someDisks(), someDops(), someKeeps(), someActs(), someActLists(), someBits(), someSnaps()} {
 		if reflect.TypeOf(l).Elem() == of {
-			var values []reflect.Value
-			for i := range reflect.ValueOf(l).Len() {
-				values = append(values, reflect.ValueOf(l).Index(i))
-			}
-			return values
+			return eachOf(l)
 		}
 	}
 	t.Fatal("no values of type", of)
 	return nil
+}
+
+func eachOf(l any) []reflect.Value {
+	var values []reflect.Value
+	for i := range reflect.ValueOf(l).Len() {
+		values = append(values, reflect.ValueOf(l).Index(i))
+	}
+	return values
 }
 
 // choices has the arguments for each parameter of f.
@@ -489,7 +504,7 @@ func choices(t *testing.T, f reflect.Value) [][]reflect.Value {
 }
 
 func TestConventions(t *testing.T) {
-	for name, f := range built() {
+	for name, f := range everyFunction() {
 		f := reflect.ValueOf(f)
 		of := choices(t, f)
 		var give func(args []reflect.Value)
@@ -529,6 +544,7 @@ func TestGreatArguments(t *testing.T) {
 	great := []any{
 		many, puts(many), drops(many), []impl.Node{{Pairs: many}},
 		strings.Repeat("a", 100000), strings.Repeat("a=1 ", 100000), strings.Repeat(" ", 100000),
+		strings.Repeat("\n", 10000000), strings.Repeat("1 begin\n", 1000000), strings.Repeat("1 ", 1000) + "\n", strings.Repeat("x", 3999) + "\n", strings.Repeat("\x00", 3999) + "\n", strings.Repeat("9", 3000) + " begin\n", "1 put " + strings.Repeat("a", 3000) + " 1\n",
 		make([]impl.Pair, 100000), make([]impl.Node, 100000), make([]impl.Change, 100000),
 		impl.Page{Id: 1, Pairs: make([]impl.Pair, 100000)}, impl.Page{Id: 1, Kids: make([]int64, 100000)},
 		impl.Shadow{Pages: make([]impl.Page, 100000), Super: impl.Super{Gen: 1, Root: 1, Next: 2}},
@@ -561,7 +577,7 @@ func TestGreatArguments(t *testing.T) {
 		impl.Snaps{Pages: []impl.Page{{Id: 1, Kids: make([]int64, 100000)}}, Super: impl.Super{Gen: 1, Root: 1, Next: 2}}, longChain(400), longChain(401),
 		make([]impl.Req, 100000), reqsOf(slices.Repeat([]string{"1 begin"}, 100000)...),
 	}
-	for name, f := range built() {
+	for name, f := range everyFunction() {
 		f := reflect.ValueOf(f)
 		of := choices(t, f)
 		for _, g := range great {

@@ -395,3 +395,44 @@ func TestWaysOfFreePagesSnapshotsAndScans(t *testing.T) {
 		t.Error("l14 has no range over a function")
 	}
 }
+
+// methods are the names of those among these that are methods.
+func methods(nodes []ast.Node) map[string]bool {
+	names := map[string]bool{}
+	for _, n := range nodes {
+		if f, ok := n.(*ast.FuncDecl); ok && f.Recv != nil {
+			names[f.Name.Name] = true
+		}
+	}
+	return names
+}
+
+// isMapToOneOf tells whether n is a map from words to these, none of them
+// called.
+func isMapToOneOf(names map[string]bool) func(n ast.Node) bool {
+	return func(n ast.Node) bool {
+		c, ok := n.(*ast.CompositeLit)
+		if !ok || len(c.Elts) == 0 || !isMap(c.Type) {
+			return false
+		}
+		for _, e := range c.Elts {
+			pair, ok := e.(*ast.KeyValueExpr)
+			if !ok {
+				return false
+			}
+			word, isWord := pair.Key.(*ast.BasicLit)
+			of, selects := pair.Value.(*ast.SelectorExpr)
+			if !isWord || word.Kind != token.STRING || !selects || !names[of.Sel.Name] {
+				return false
+			}
+		}
+		return true
+	}
+}
+
+func TestWaysOfTheScript(t *testing.T) {
+	script := reached(t)["l15_script.go"]
+	if !anyIn(script, isMapToOneOf(methods(script))) {
+		t.Error("l15 has no map from words to method values")
+	}
+}
